@@ -1,0 +1,85 @@
+// Package lines reads and writes strings of lines: words that are separated by one space, with a line feed at the end.
+package lines
+
+import (
+	"strings"
+
+	"crumple/api"
+)
+
+// maxDigits is the most digits of an integer.
+const maxDigits = 9
+
+// Words is the words of a line that are not yet taken, and whether one that was taken is not as it was asked for.
+type Words struct {
+	left  []string
+	wrong bool
+}
+
+// Line returns a line with some words.
+func Line(words ...string) string {
+	return strings.Join(words, " ") + "\n"
+}
+
+// Parsed returns what is read of each line; for the first line that is wrong its index, and ErrSyntax; ErrLong for too long a string.
+func Parsed[A any](s string, read func(*Words) A) ([]A, int, api.Errno) {
+	if len(s) > api.MaxText {
+		return nil, 0, api.ErrLong
+	}
+	var l []A
+	for i, line := range split(s) {
+		text, ended := strings.CutSuffix(line, "\n")
+		w := Words{left: strings.Split(text, " ")}
+		x := read(&w)
+		if !ended || w.wrong || len(w.left) > 0 {
+			return nil, i, api.ErrSyntax
+		}
+		l = append(l, x)
+	}
+	return l, 0, api.OK
+}
+
+// split returns the lines of a string, each with its line feed, if it has one.
+func split(s string) []string {
+	l := strings.SplitAfter(s, "\n")
+	if last := len(l) - 1; l[last] == "" {
+		return l[:last]
+	}
+	return l
+}
+
+// Key takes the next word, which must be this one.
+func (w *Words) Key(key string) {
+	if w.Word() != key {
+		w.wrong = true
+	}
+}
+
+// Word takes the next word, of at least one byte; a line without one is wrong.
+func (w *Words) Word() string {
+	if len(w.left) == 0 || w.left[0] == "" {
+		w.wrong = true
+		return ""
+	}
+	word := w.left[0]
+	w.left = w.left[1:]
+	return word
+}
+
+// Natural takes the next word, which must be digits alone, at most maxDigits, without leading zeros.
+func (w *Words) Natural() int {
+	digits := w.Word()
+	if len(digits) > maxDigits || digits != "0" && strings.HasPrefix(digits, "0") {
+		w.wrong = true
+		return 0
+	}
+	number := 0
+	for _, c := range digits {
+		if c < '0' || c > '9' {
+			w.wrong = true
+			return 0
+		}
+		number = 10*number + int(c-'0')
+	}
+	return number
+}

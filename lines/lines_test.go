@@ -1,0 +1,49 @@
+package lines_test
+
+import (
+	"fmt"
+	"strings"
+	"testing"
+
+	"crumple/api"
+	"crumple/lines"
+)
+
+type pair struct {
+	word   string
+	number int
+}
+
+// readPair reads a line with the word pair, another word, and a number.
+func readPair(w *lines.Words) pair {
+	w.Key("pair")
+	word := w.Word()
+	return pair{word: word, number: w.Natural()}
+}
+
+func TestLine(t *testing.T) {
+	if s := lines.Line("pair", "a", "1"); s != "pair a 1\n" {
+		t.Errorf("Line: got %q", s)
+	}
+}
+
+func TestParsed(t *testing.T) {
+	for _, x := range []struct {
+		s  string
+		l  []pair
+		at int
+		e  api.Errno
+	}{
+		{"", nil, 0, api.OK},
+		{"pair a 0\npair - 999999999\n", []pair{{"a", 0}, {"-", 999999999}}, 0, api.OK},
+		{"pair a 1", nil, 0, api.ErrSyntax}, {"\n", nil, 0, api.ErrSyntax}, {"pair\n", nil, 0, api.ErrSyntax}, {"pair a\n", nil, 0, api.ErrSyntax},
+		{"pair a 1\npair  1\n", nil, 1, api.ErrSyntax}, {"pair a 1\npair a 1 \n", nil, 1, api.ErrSyntax}, {"pair a 1\nPair a 1\n", nil, 1, api.ErrSyntax}, {"pair a 1\n\n", nil, 1, api.ErrSyntax}, {"pair a 1\npair a 1 1\n", nil, 1, api.ErrSyntax},
+		{"pair a 00\n", nil, 0, api.ErrSyntax}, {"pair a 01\n", nil, 0, api.ErrSyntax}, {"pair a -1\n", nil, 0, api.ErrSyntax}, {"pair a +1\n", nil, 0, api.ErrSyntax}, {"pair a 1000000000\n", nil, 0, api.ErrSyntax}, {"pair a 1x\n", nil, 0, api.ErrSyntax}, {"pair a 1\r\n", nil, 0, api.ErrSyntax},
+		{strings.Repeat("\n", api.MaxText), nil, 0, api.ErrSyntax}, {strings.Repeat("\n", api.MaxText+1), nil, 0, api.ErrLong},
+	} {
+		l, at, e := lines.Parsed(x.s, readPair)
+		if got, wanted := fmt.Sprint(l, at, e), fmt.Sprint(x.l, x.at, x.e); got != wanted {
+			t.Errorf("Parsed of %q: got %s, want %s", x.s, got, wanted)
+		}
+	}
+}

@@ -1,0 +1,21 @@
+// Package quotient rounds quotients of integers; all divisors are above 0.
+package quotient
+
+// Down returns the greatest integer that is not above a quotient.
+func Down(a, b int) int {
+	q := a / b
+	if a%b < 0 {
+		q--
+	}
+	return q
+}
+
+// Up returns the least integer that is not below a quotient.
+func Up(a, b int) int {
+	return -Down(-a, b)
+}
+
+// Nearest returns the integer that is nearest to a quotient, from the middle the greater one.
+func Nearest(a, b int) int {
+	return Down(2*a+b, 2*b)
+}
