@@ -13,13 +13,11 @@ const sensorWord = "sensor"
 
 // checkSensors returns the first error of sensors, or OK.
 func checkSensors(l []Sensor) api.Errno {
-	names := map[string]bool{}
+	names := check.Names{}
 	return check.First(
 		check.When(len(l) > MaxMany, api.ErrMany),
 		check.Each(l, func(s Sensor) api.Errno {
-			e := check.First(CheckSensor(s), check.When(names[s.Name], api.ErrTwice))
-			names[s.Name] = true
-			return e
+			return check.First(CheckSensor(s), names.Take(s.Name))
 		}),
 	)
 }
@@ -38,15 +36,7 @@ func Print(l []Sensor) (string, api.Errno) {
 
 // Parse returns the sensors of a string, and the index of the first line that is wrong.
 func Parse(s string) ([]Sensor, int, api.Errno) {
-	l, at, e := lines.Parsed(s, readSensor)
-	if e != api.OK {
-		return nil, at, e
-	}
-	// Each line has one sensor.
-	if e := checkSensors(l); e != api.OK {
-		return nil, len(l), e
-	}
-	return l, 0, api.OK
+	return lines.Checked(s, readSensor, checkSensors)
 }
 
 // readSensor takes the words of a line.

@@ -1,7 +1,13 @@
 // Package check finds the first error of arguments and of lists. It is for all layers from channel on; record depends on api alone.
 package check
 
-import "crumple/api"
+import (
+	"crumple/api"
+	"crumple/record"
+)
+
+// Names is names that are taken.
+type Names map[string]bool
 
 // First returns the first of some errors that is not OK, or OK.
 func First(l ...api.Errno) api.Errno {
@@ -43,4 +49,21 @@ func Each[A any](l []A, check func(A) api.Errno) api.Errno {
 		}
 	}
 	return api.OK
+}
+
+// Name returns ErrName if a string is not a name, or OK.
+func Name(s string) api.Errno {
+	return When(!record.IsName(s), api.ErrName)
+}
+
+// Take returns ErrTwice if a name is taken, or OK; from then on it is taken.
+func (n Names) Take(name string) api.Errno {
+	taken := n[name]
+	n[name] = true
+	return When(taken, api.ErrTwice)
+}
+
+// Count returns ErrEmpty if there are no elements, ErrMany if there are more than most, or OK.
+func Count(n, most int) api.Errno {
+	return First(When(n == 0, api.ErrEmpty), When(n > most, api.ErrMany))
 }

@@ -1,6 +1,7 @@
 package check_test
 
 import (
+	"strings"
 	"testing"
 
 	"crumple/api"
@@ -46,4 +47,24 @@ func TestEach(t *testing.T) {
 	want(t, "Each of none", check.Each(nil, known), api.OK)
 	want(t, "Each without an error", check.Each([]api.Errno{api.OK}, known), api.OK)
 	want(t, "Each", check.Each([]api.Errno{api.OK, api.ErrMany, api.ErrForm}, known), api.ErrMany)
+}
+
+func TestName(t *testing.T) {
+	for x, e := range map[string]api.Errno{"a": api.OK, "A_9": api.OK, strings.Repeat("x", api.MaxName): api.OK, "": api.ErrName, "9": api.ErrName, "a b": api.ErrName, strings.Repeat("x", api.MaxName+1): api.ErrName} {
+		want(t, "Name of "+x, check.Name(x), e)
+	}
+}
+
+func TestTake(t *testing.T) {
+	names := check.Names{}
+	want(t, "Take of a name", names.Take("a"), api.OK)
+	want(t, "Take of another name", names.Take("A"), api.OK)
+	want(t, "Take of a name once more", names.Take("a"), api.ErrTwice)
+	want(t, "Take of a name in another set", check.Names{}.Take("a"), api.OK)
+}
+
+func TestCount(t *testing.T) {
+	for n, e := range map[int]api.Errno{0: api.ErrEmpty, 1: api.OK, 3: api.OK, 4: api.ErrMany} {
+		want(t, "Count", check.Count(n, 3), e)
+	}
 }

@@ -39,6 +39,18 @@ func Parsed[A any](s string, read func(*Words) A) ([]A, int, api.Errno) {
 	return l, 0, api.OK
 }
 
+// Checked returns what is read of each line, as Parsed does; for a list with an error the number of lines, and this error.
+func Checked[A any](s string, read func(*Words) A, check func([]A) api.Errno) ([]A, int, api.Errno) {
+	l, at, e := Parsed(s, read)
+	if e != api.OK {
+		return nil, at, e
+	}
+	if e := check(l); e != api.OK {
+		return nil, len(l), e
+	}
+	return l, 0, api.OK
+}
+
 // split returns the lines of a string, each with its line feed, if it has one.
 func split(s string) []string {
 	l := strings.SplitAfter(s, "\n")
@@ -64,6 +76,26 @@ func (w *Words) Word() string {
 	word := w.left[0]
 	w.left = w.left[1:]
 	return word
+}
+
+// More reports whether words are left; on a line that is wrong they do not count.
+func (w *Words) More() bool {
+	return !w.wrong && len(w.left) > 0
+}
+
+// Integer takes the next word, which must be digits as Natural takes them, with or without - in front, but not -0.
+func (w *Words) Integer() int {
+	if len(w.left) == 0 {
+		return w.Natural()
+	}
+	digits, negative := strings.CutPrefix(w.left[0], "-")
+	if !negative {
+		return w.Natural()
+	}
+	w.left[0] = digits
+	number := w.Natural()
+	w.wrong = w.wrong || number == 0
+	return -number
 }
 
 // Natural takes the next word, which must be digits alone, at most maxDigits, without leading zeros.

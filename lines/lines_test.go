@@ -47,3 +47,59 @@ func TestParsed(t *testing.T) {
 		}
 	}
 }
+
+// readAll reads a line of integers alone.
+func readAll(w *lines.Words) []int {
+	var l []int
+	for w.More() {
+		l = append(l, w.Integer())
+	}
+	return l
+}
+
+func TestIntegersToTheEndOfALine(t *testing.T) {
+	for _, x := range []struct {
+		s string
+		l [][]int
+		e api.Errno
+	}{
+		{"0\n", [][]int{{0}}, api.OK}, {"-1 2 -999999999 999999999 0\n7\n", [][]int{{-1, 2, -999999999, 999999999, 0}, {7}}, api.OK},
+		{"-0\n", nil, api.ErrSyntax}, {"-\n", nil, api.ErrSyntax}, {"--1\n", nil, api.ErrSyntax}, {"-01\n", nil, api.ErrSyntax}, {"00\n", nil, api.ErrSyntax}, {"+1\n", nil, api.ErrSyntax}, {"-1000000000\n", nil, api.ErrSyntax}, {"1-\n", nil, api.ErrSyntax}, {"-x\n", nil, api.ErrSyntax},
+		{"\n", nil, api.ErrSyntax}, {"1  2\n", nil, api.ErrSyntax}, {"1 \n", nil, api.ErrSyntax}, {" 1\n", nil, api.ErrSyntax}, {"1", nil, api.ErrSyntax},
+	} {
+		l, at, e := lines.Parsed(x.s, readAll)
+		if got, wanted := fmt.Sprint(l, at, e), fmt.Sprint(x.l, 0, x.e); got != wanted {
+			t.Errorf("Parsed of %q: got %s, want %s", x.s, got, wanted)
+		}
+	}
+}
+
+func TestIntegerOfNoWord(t *testing.T) {
+	_, _, e := lines.Parsed("1\n", func(w *lines.Words) int { return w.Integer() + w.Integer() })
+	if e != api.ErrSyntax {
+		t.Errorf("Parsed of one word for two integers: got %d", e)
+	}
+}
+
+func TestChecked(t *testing.T) {
+	most := func(l []pair) api.Errno {
+		if len(l) > 2 {
+			return api.ErrMany
+		}
+		return api.OK
+	}
+	for _, x := range []struct {
+		s  string
+		l  []pair
+		at int
+		e  api.Errno
+	}{
+		{"", nil, 0, api.OK}, {"pair a 1\npair b 2\n", []pair{{"a", 1}, {"b", 2}}, 0, api.OK},
+		{"pair a 1\npair a 1\npair a 1\n", nil, 3, api.ErrMany}, {"pair a 1\npair a 1\npair a\npair", nil, 2, api.ErrSyntax}, {strings.Repeat("\n", api.MaxText+1), nil, 0, api.ErrLong},
+	} {
+		l, at, e := lines.Checked(x.s, readPair, most)
+		if got, wanted := fmt.Sprint(l, at, e), fmt.Sprint(x.l, x.at, x.e); got != wanted {
+			t.Errorf("Checked of %q: got %s, want %s", x.s, got, wanted)
+		}
+	}
+}

@@ -16,3 +16,13 @@ func TestMapped(t *testing.T) {
 		t.Errorf("Mapped of none: got %v", got)
 	}
 }
+
+func TestKept(t *testing.T) {
+	even := func(x int) bool { return x%2 == 0 }
+	if got := lists.Kept([]int{3, -2, 2, 5}, even); !slices.Equal(got, []int{-2, 2}) {
+		t.Errorf("Kept: got %v", got)
+	}
+	if got := lists.Kept([]int{3}, even); len(got) != 0 {
+		t.Errorf("Kept of none that holds: got %v", got)
+	}
+}

@@ -1,5 +1,7 @@
-// Package quotient rounds quotients of integers; all divisors are above 0.
+// Package quotient rounds quotients of integers, and brings them to lowest terms; all divisors are above 0.
 package quotient
+
+import "crumple/api"
 
 // Down returns the greatest integer that is not above a quotient.
 func Down(a, b int) int {
@@ -18,4 +20,14 @@ func Up(a, b int) int {
 // Nearest returns the integer that is nearest to a quotient, from the middle the greater one.
 func Nearest(a, b int) int {
 	return Down(2*a+b, 2*b)
+}
+
+// Ratio returns a quotient in lowest terms.
+func Ratio(a, b int) api.Ratio {
+	common, rest := b, a%b
+	for rest != 0 {
+		common, rest = rest, common%rest
+	}
+	common = max(common, -common)
+	return api.Ratio{Num: a / common, Den: b / common}
 }

@@ -4,6 +4,7 @@ import (
 	"testing"
 
 	"crumple/quotient"
+	"crumple/record"
 )
 
 func TestQuotients(t *testing.T) {
@@ -18,6 +19,17 @@ func TestQuotients(t *testing.T) {
 			// It is at most a half above, and less than a half below.
 			if q := quotient.Nearest(a, b); 2*(q*b-a) > b || 2*(a-q*b) >= b {
 				t.Errorf("Nearest of %d by %d: got %d", a, b, q)
+			}
+		}
+	}
+}
+
+func TestRatio(t *testing.T) {
+	for a := -50; a <= 50; a++ {
+		for b := 1; b <= 60; b++ {
+			x := quotient.Ratio(a, b)
+			if e := record.CheckRatio(x); e != 0 || x.Num*b != a*x.Den {
+				t.Errorf("Ratio of %d by %d: got %v, %d", a, b, x, e)
 			}
 		}
 	}
