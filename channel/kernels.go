@@ -6,6 +6,7 @@ import (
 
 	"crumple/api"
 	"crumple/check"
+	"crumple/interval"
 	"crumple/quotient"
 	"crumple/record"
 )
@@ -137,7 +138,7 @@ func Enclosed(l []api.Interval, k []int) ([]api.Interval, api.Errno) {
 func (m mask) spread(l []api.Interval, n int) ends {
 	var all ends
 	for _, p := range m.gathered(n, len(l)) {
-		product := products(only(p.weight), l[p.at])
+		product := products(interval.Only(p.weight), l[p.at])
 		all[0] += product[0]
 		all[1] += product[1]
 	}

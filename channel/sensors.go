@@ -1,10 +1,9 @@
 package channel
 
 import (
-	"slices"
-
 	"crumple/api"
 	"crumple/check"
+	"crumple/interval"
 	"crumple/lists"
 	"crumple/quotient"
 	"crumple/record"
@@ -30,13 +29,8 @@ func (r rounding) divided(e ends, divisor int) api.Interval {
 
 // products returns the ends of all products of two intervals' numbers.
 func products(a, b api.Interval) ends {
-	corners := [4]int{a.Low * b.Low, a.Low * b.High, a.High * b.Low, a.High * b.High}
-	return ends{slices.Min(corners[:]), slices.Max(corners[:])}
-}
-
-// only returns the interval of one number.
-func only(x int) api.Interval {
-	return api.Interval{Low: x, High: x}
+	x := interval.Product(a, b)
+	return ends{x.Low, x.High}
 }
 
 // CheckSensor returns the first error of a sensor, or OK.
@@ -95,7 +89,7 @@ func Shunted(s Sensor, expected, measured int) (bool, api.Errno) {
 	if e != api.OK {
 		return false, e
 	}
-	x := outward().divided(products(only(measured), s.Sense), Whole)
+	x := outward().divided(products(interval.Only(measured), s.Sense), Whole)
 	permitted := ends{x.Low, x.High}
 	// What lies between two ends does not move them.
 	return permitted == ends{min(x.Low, expected), max(x.High, expected)}, api.OK

@@ -10,9 +10,10 @@ import (
 // maxDigits is the most digits of an integer.
 const maxDigits = 9
 
-// Words is the words of a line that are not yet taken, and whether one that was taken is not as it was asked for.
+// Words is the words of a line that are not yet taken, the index of the line, and whether a word that was taken is not as it was asked for.
 type Words struct {
 	left  []string
+	at    int
 	wrong bool
 }
 
@@ -29,7 +30,7 @@ func Parsed[A any](s string, read func(*Words) A) ([]A, int, api.Errno) {
 	var l []A
 	for i, line := range split(s) {
 		text, ended := strings.CutSuffix(line, "\n")
-		w := Words{left: strings.Split(text, " ")}
+		w := Words{left: strings.Split(text, " "), at: i}
 		x := read(&w)
 		if !ended || w.wrong || len(w.left) > 0 {
 			return nil, i, api.ErrSyntax
@@ -58,6 +59,11 @@ func split(s string) []string {
 		return l[:last]
 	}
 	return l
+}
+
+// At returns the index of the line.
+func (w *Words) At() int {
+	return w.at
 }
 
 // Key takes the next word, which must be this one.

@@ -103,3 +103,25 @@ func TestChecked(t *testing.T) {
 		}
 	}
 }
+
+func TestFormsByTheIndexOfALine(t *testing.T) {
+	heads := []string{"first", "second"}
+	read := func(w *lines.Words) int {
+		w.Key(heads[min(w.At(), 1)])
+		return w.At()
+	}
+	for _, x := range []struct {
+		s  string
+		l  []int
+		at int
+		e  api.Errno
+	}{
+		{"first\n", []int{0}, 0, api.OK}, {"first\nsecond\nsecond\n", []int{0, 1, 2}, 0, api.OK},
+		{"second\n", nil, 0, api.ErrSyntax}, {"first\nfirst\n", nil, 1, api.ErrSyntax}, {"first\nsecond\nfirst\n", nil, 2, api.ErrSyntax},
+	} {
+		l, at, e := lines.Parsed(x.s, read)
+		if got, wanted := fmt.Sprint(l, at, e), fmt.Sprint(x.l, x.at, x.e); got != wanted {
+			t.Errorf("Parsed of %q: got %s, want %s", x.s, got, wanted)
+		}
+	}
+}
