@@ -7,7 +7,7 @@ import (
 	"crumple/api"
 )
 
-// maxDigits is the most digits of an integer.
+// maxDigits is the most digits of an integer, where a chapter does not name more.
 const maxDigits = 9
 
 // Words is the words of a line that are not yet taken, the index of the line, and whether a word that was taken is not as it was asked for.
@@ -104,10 +104,15 @@ func (w *Words) Integer() int {
 	return -number
 }
 
-// Natural takes the next word, which must be digits alone, at most maxDigits, without leading zeros.
+// Natural takes the next word, which must be digits as Digits takes them, at most maxDigits.
 func (w *Words) Natural() int {
+	return w.Digits(maxDigits)
+}
+
+// Digits takes the next word, which must be digits alone, at most some, without leading zeros.
+func (w *Words) Digits(most int) int {
 	digits := w.Word()
-	if len(digits) > maxDigits || digits != "0" && strings.HasPrefix(digits, "0") {
+	if len(digits) > most || digits != "0" && strings.HasPrefix(digits, "0") {
 		w.wrong = true
 		return 0
 	}

@@ -81,6 +81,23 @@ func TestIntegerOfNoWord(t *testing.T) {
 	}
 }
 
+func TestDigitsOfSomeLength(t *testing.T) {
+	for _, x := range []struct {
+		s    string
+		most int
+		l    []int
+		e    api.Errno
+	}{
+		{"0\n", 1, []int{0}, api.OK}, {"9\n10\n", 2, []int{9, 10}, api.OK}, {"9999999999999\n", 13, []int{9999999999999}, api.OK},
+		{"10\n", 1, nil, api.ErrSyntax}, {"10000000000000\n", 13, nil, api.ErrSyntax}, {"00\n", 13, nil, api.ErrSyntax}, {"0000000000001\n", 13, nil, api.ErrSyntax}, {"-1\n", 13, nil, api.ErrSyntax}, {"\n", 13, nil, api.ErrSyntax},
+	} {
+		l, at, e := lines.Parsed(x.s, func(w *lines.Words) int { return w.Digits(x.most) })
+		if got, wanted := fmt.Sprint(l, at, e), fmt.Sprint(x.l, 0, x.e); got != wanted {
+			t.Errorf("Parsed of %q with %d digits: got %s, want %s", x.s, x.most, got, wanted)
+		}
+	}
+}
+
 func TestChecked(t *testing.T) {
 	most := func(l []pair) api.Errno {
 		if len(l) > 2 {

@@ -1,7 +1,11 @@
-// Package quotient rounds quotients of integers, and brings them to lowest terms; all divisors are above 0.
+// Package quotient rounds quotients of integers, brings them to lowest terms, and compares them; all divisors are above 0.
 package quotient
 
-import "crumple/api"
+import (
+	"cmp"
+
+	"crumple/api"
+)
 
 // Down returns the greatest integer that is not above a quotient.
 func Down(a, b int) int {
@@ -30,4 +34,9 @@ func Ratio(a, b int) api.Ratio {
 	}
 	common = max(common, -common)
 	return api.Ratio{Num: a / common, Den: b / common}
+}
+
+// Compare compares two ratios by their products, which must be integers of 64 bits.
+func Compare(a, b api.Ratio) int {
+	return cmp.Compare(a.Num*b.Den, b.Num*a.Den)
 }

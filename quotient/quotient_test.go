@@ -1,8 +1,10 @@
 package quotient_test
 
 import (
+	"cmp"
 	"testing"
 
+	"crumple/api"
 	"crumple/quotient"
 	"crumple/record"
 )
@@ -32,5 +34,24 @@ func TestRatio(t *testing.T) {
 				t.Errorf("Ratio of %d by %d: got %v, %d", a, b, x, e)
 			}
 		}
+	}
+}
+
+func TestCompare(t *testing.T) {
+	for a := -12; a <= 12; a++ {
+		for b := 1; b <= 5; b++ {
+			for c := -12; c <= 12; c++ {
+				// These quotients are so few that a float64 tells each from the others.
+				wanted := cmp.Compare(float64(a)/float64(b), float64(c)/5)
+				if order := quotient.Compare(quotient.Ratio(a, b), quotient.Ratio(c, 5)); order != wanted {
+					t.Errorf("Compare of %d/%d and %d/5: got %d, want %d", a, b, c, order, wanted)
+				}
+			}
+		}
+	}
+	// No float64 tells these from each other.
+	less, more := api.Ratio{Num: 4999994999999, Den: 999999}, api.Ratio{Num: 4999999999999, Den: 1000000}
+	if quotient.Compare(less, more) != -1 || quotient.Compare(more, less) != 1 || quotient.Compare(more, more) != 0 {
+		t.Errorf("Compare of %v and %v: they are told from each other by their products", less, more)
 	}
 }
