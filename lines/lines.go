@@ -73,6 +73,11 @@ func (w *Words) Key(key string) {
 	}
 }
 
+// Reject says that the line is wrong.
+func (w *Words) Reject() {
+	w.wrong = true
+}
+
 // Word takes the next word, of at least one byte; a line without one is wrong.
 func (w *Words) Word() string {
 	if len(w.left) == 0 || w.left[0] == "" {

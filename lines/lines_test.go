@@ -142,3 +142,30 @@ func TestFormsByTheIndexOfALine(t *testing.T) {
 		}
 	}
 }
+
+func TestReject(t *testing.T) {
+	// A line is - alone, or + with a number; all other first words are rejected.
+	read := func(w *lines.Words) int {
+		switch w.Word() {
+		case "-":
+			return 0
+		case "+":
+			return w.Natural()
+		}
+		w.Reject()
+		return 0
+	}
+	for _, x := range []struct {
+		s  string
+		l  []int
+		at int
+		e  api.Errno
+	}{
+		{"+ 7\n-\n", []int{7, 0}, 0, api.OK}, {"*\n", nil, 0, api.ErrSyntax}, {"* 7\n", nil, 0, api.ErrSyntax}, {"-\n*\n-\n", nil, 1, api.ErrSyntax},
+	} {
+		l, at, e := lines.Parsed(x.s, read)
+		if got, wanted := fmt.Sprint(l, at, e), fmt.Sprint(x.l, x.at, x.e); got != wanted {
+			t.Errorf("Parsed of %q: got %s, want %s", x.s, got, wanted)
+		}
+	}
+}
