@@ -30,14 +30,29 @@ func Parsed[A any](s string, read func(*Words) A) ([]A, int, api.Errno) {
 	var l []A
 	for i, line := range split(s) {
 		text, ended := strings.CutSuffix(line, "\n")
-		w := Words{left: strings.Split(text, " "), at: i}
-		x := read(&w)
-		if !ended || w.wrong || len(w.left) > 0 {
+		x, e := readAt(text, i, read)
+		if !ended || e != api.OK {
 			return nil, i, api.ErrSyntax
 		}
 		l = append(l, x)
 	}
 	return l, 0, api.OK
+}
+
+// Read returns what is read of one line without its line feed; ErrSyntax if it is wrong.
+func Read[A any](text string, read func(*Words) A) (A, api.Errno) {
+	return readAt(text, 0, read)
+}
+
+// readAt returns what is read of the line with an index; ErrSyntax if it is wrong, or not all of its words were taken.
+func readAt[A any](text string, at int, read func(*Words) A) (A, api.Errno) {
+	w := Words{left: strings.Split(text, " "), at: at}
+	x := read(&w)
+	if w.wrong || len(w.left) > 0 {
+		var none A
+		return none, api.ErrSyntax
+	}
+	return x, api.OK
 }
 
 // Checked returns what is read of each line, as Parsed does; for a list with an error the number of lines, and this error.

@@ -169,3 +169,22 @@ func TestReject(t *testing.T) {
 		}
 	}
 }
+
+func TestRead(t *testing.T) {
+	for _, x := range []struct {
+		s string
+		p pair
+		e api.Errno
+	}{
+		{"pair a 1", pair{"a", 1}, api.OK}, {"pair # 999999999", pair{"#", 999999999}, api.OK}, {"pair a\nb 0", pair{"a\nb", 0}, api.OK},
+		{"", pair{}, api.ErrSyntax}, {"pair", pair{}, api.ErrSyntax}, {"pair a", pair{}, api.ErrSyntax}, {"pair a 1\n", pair{}, api.ErrSyntax}, {"pair a 1 ", pair{}, api.ErrSyntax}, {"pair a 1 1", pair{}, api.ErrSyntax}, {" pair a 1", pair{}, api.ErrSyntax}, {"pair  a 1", pair{}, api.ErrSyntax}, {"Pair a 1", pair{}, api.ErrSyntax}, {"pair a 01", pair{}, api.ErrSyntax},
+	} {
+		if p, e := lines.Read(x.s, readPair); p != x.p || e != x.e {
+			t.Errorf("Read of %q: got %v, %d, want %v, %d", x.s, p, e, x.p, x.e)
+		}
+	}
+	// A line is as long as its caller permits.
+	if p, e := lines.Read("pair "+strings.Repeat("a", 2*api.MaxText)+" 1", readPair); e != api.OK || len(p.word) != 2*api.MaxText {
+		t.Errorf("Read of a long line: got %d", e)
+	}
+}
